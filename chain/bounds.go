@@ -32,7 +32,9 @@ func follow(c api.Chain, l []api.Gauge, counts func(gauge int) bool) (b bounds, 
 			b.add(l[i].From, l[i].To, l[i].Says)
 		}
 	}
-	return b, b.tighten(c.Links)
+	// A statement of its own: Go does not say whether a return reads b before or behind a call that changes it.
+	agree = b.tighten(c.Links)
+	return b, agree
 }
 
 // links sets the bounds that the chain has without any gauge.
